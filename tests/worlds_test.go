@@ -1,0 +1,272 @@
+package tests
+
+import (
+	"math"
+	"slices"
+)
+
+// relation tells for each two things a and b whether a is a part of b. The tests judge the program by it, and not by sets of bits, so that they share no mistake with it.
+type relation [][]bool
+
+// relationOf reads the sets as they are told, number by number; false where a set has numbers of other things, or is negative.
+func relationOf(w []int) (relation, bool) {
+	r := make(relation, len(w))
+	for a := range r {
+		r[a] = make([]bool, len(w))
+	}
+	for b, parts := range w {
+		if parts < 0 {
+			return nil, false
+		}
+		for a := range w {
+			r[a][b] = parts%2 == 1
+			parts /= 2
+		}
+		if parts != 0 {
+			return nil, false
+		}
+	}
+	return r, true
+}
+
+// isWorld asks each sentence of the definition of its own.
+func isWorld(w []int) bool {
+	r, ok := relationOf(w)
+	if !ok || len(w) < 1 || len(w) > 7 {
+		return false
+	}
+	for a := range r {
+		if !r[a][a] {
+			return false
+		}
+		for b := range r {
+			if a != b && r[a][b] && r[b][a] {
+				return false
+			}
+			for c := range r {
+				if r[a][b] && r[b][c] && !r[a][c] {
+					return false
+				}
+			}
+		}
+	}
+	return true
+}
+
+func (r relation) overlap(a, b int) bool {
+	for c := range r {
+		if r[c][a] && r[c][b] {
+			return true
+		}
+	}
+	return false
+}
+
+// deep tries each set of things: a chain is one of which of each two things one is a part of the other one.
+func (r relation) deep() int {
+	most := 0
+	for set := range 1 << len(r) {
+		list := members(set)
+		if r.inLine(list) {
+			most = max(most, len(list))
+		}
+	}
+	return most
+}
+
+func (r relation) inLine(list []int) bool {
+	for _, a := range list {
+		for _, b := range list {
+			if !r[a][b] && !r[b][a] {
+				return false
+			}
+		}
+	}
+	return true
+}
+
+func members(set int) []int {
+	var list []int
+	for a := 0; set > 0; a++ {
+		if set%2 == 1 {
+			list = append(list, a)
+		}
+		set /= 2
+	}
+	return list
+}
+
+func setOf(list []int) int {
+	set := 0
+	for _, a := range list {
+		set += power(a)
+	}
+	return set
+}
+
+func power(a int) int {
+	p := 1
+	for range a {
+		p *= 2
+	}
+	return p
+}
+
+func inSet(set, a int) bool {
+	return slices.Contains(members(set), a)
+}
+
+func inside(set, other int) bool {
+	for _, a := range members(set) {
+		if !inSet(other, a) {
+			return false
+		}
+	}
+	return true
+}
+
+// lists calls do with each list of so many numbers in low..high.
+func lists(length, low, high int, do func([]int)) {
+	list := make([]int, 0, length)
+	var next func()
+	next = func() {
+		if len(list) == length {
+			do(slices.Clone(list))
+			return
+		}
+		for n := low; n <= high; n++ {
+			list = append(list, n)
+			next()
+			list = list[:len(list)-1]
+		}
+	}
+	next()
+}
+
+func flat(n int) []int {
+	w := make([]int, n)
+	for a := range w {
+		w[a] = power(a)
+	}
+	return w
+}
+
+// line is the world in which each thing is a part of all that follow it.
+func line(n int) []int {
+	w := make([]int, n)
+	for a := range w {
+		w[a] = power(a+1) - 1
+	}
+	return w
+}
+
+// backwards is the same world with its things in the opposite order.
+func backwards(w []int) []int {
+	n := len(w)
+	out := make([]int, n)
+	for b, parts := range w {
+		var list []int
+		for _, a := range members(parts) {
+			list = append(list, n-1-a)
+		}
+		out[n-1-b] = setOf(list)
+	}
+	return out
+}
+
+// worldOfSets is the world of sets of points, one within another one.
+func worldOfSets(sets []int) []int {
+	w := make([]int, len(sets))
+	for b, whole := range sets {
+		for a, part := range sets {
+			if inside(part, whole) {
+				w[b] += power(a)
+			}
+		}
+	}
+	return w
+}
+
+// smallWorlds has all worlds of one to four things: 1, 3, 19 and 219.
+func smallWorlds() [][]int {
+	var all [][]int
+	for n := 1; n <= 4; n++ {
+		lists(n, 0, power(n)-1, func(w []int) {
+			if isWorld(w) {
+				all = append(all, w)
+			}
+		})
+	}
+	return all
+}
+
+// largeWorlds has worlds of MaxThings things: flat, in a line, with a thing that is part of all, with one that has all, all sets of three points, and seven sets of points each; and each of them backwards.
+func largeWorlds() [][]int {
+	all := [][]int{
+		flat(7),
+		line(7),
+		{1, 3, 5, 9, 17, 33, 65},
+		{1, 2, 4, 8, 16, 32, 127},
+		worldOfSets([]int{1, 2, 3, 4, 5, 6, 7}),
+	}
+	// of the 6435 families of seven sets of four points every fiftieth is enough
+	families := 0
+	for chosen := range power(15) {
+		if sets := members(chosen * 2); len(sets) == 7 {
+			if families%50 == 0 {
+				all = append(all, worldOfSets(sets))
+			}
+			families++
+		}
+	}
+	for _, w := range all[:len(all):len(all)] {
+		all = append(all, backwards(w))
+	}
+	return all
+}
+
+func worlds() [][]int {
+	return append(smallWorlds(), largeWorlds()...)
+}
+
+// noWorlds has lists of sets that are no worlds, by what is wrong with them.
+func noWorlds() map[string][]int {
+	return map[string][]int{
+		"nothing":                            nil,
+		"no things":                          {},
+		"eight things":                       flat(8),
+		"eight things in a line":             line(8),
+		"many things":                        flat(40),
+		"many things in a line of sets":      line(60),
+		"a set without anything":             {0},
+		"a thing that is not its own part":   {1, 0},
+		"a thing that is but another's part": {1, 1},
+		"another's part and not its own":     {1, 3, 3},
+		"the first is not its own part":      {2, 2},
+		"the same parts":                     {3, 3},
+		"parts of each other":                {1, 6, 6},
+		"parts of each other around":         {3, 6, 5},
+		"all parts of all":                   {7, 7, 7},
+		"a part of a part that is missing":   {1, 3, 6},
+		"the same backwards":                 {3, 6, 4},
+		"a deep part that is missing":        {1, 3, 7, 13},
+		"the last of seven misses a part":    {1, 3, 7, 15, 31, 63, 126},
+		"a thing that is not there":          {3},
+		"only a thing that is not there":     {2},
+		"a thing past the end":               {1, 2, 12},
+		"a thing far past the end":           {1, 2 + power(40)},
+		"the eighth of seven things":         {1, 2, 4, 8, 16, 32, 64 + 128},
+		"all bits":                           {-1},
+		"a negative set":                     {1, -2},
+		"a negative set with itself":         {1, 2, math.MinInt + 4},
+		"the least number":                   {math.MinInt},
+		"the greatest number":                {math.MaxInt},
+		"the least number and itself":        {math.MinInt + 1},
+		"a set for each is the greatest":     {math.MaxInt, math.MaxInt},
+	}
+}
+
+// noThings has numbers that no thing of a world of so many things has.
+func noThings(n int) []int {
+	return []int{-1, -2, -7, -64, math.MinInt, n, n + 1, 7, 8, 31, 32, 63, 64, 65, math.MaxInt}
+}
