@@ -62,6 +62,26 @@ func (r relation) overlap(a, b int) bool {
 	return false
 }
 
+// atom asks for a part that is another thing.
+func (r relation) atom(a int) bool {
+	for b := range r {
+		if b != a && r[b][a] {
+			return false
+		}
+	}
+	return true
+}
+
+func (r relation) atomsIn(a int) []int {
+	var list []int
+	for b := range r {
+		if r.atom(b) && r[b][a] {
+			list = append(list, b)
+		}
+	}
+	return list
+}
+
 // deep tries each set of things: a chain is one of which of each two things one is a part of the other one.
 func (r relation) deep() int {
 	most := 0
@@ -227,6 +247,34 @@ func largeWorlds() [][]int {
 
 func worlds() [][]int {
 	return append(smallWorlds(), largeWorlds()...)
+}
+
+// worldsOfFive has all 4231 worlds of five things: a world without its last thing is one, so each is a world of four with one thing more.
+func worldsOfFive() [][]int {
+	var all [][]int
+	for _, w := range smallWorlds() {
+		if len(w) < 4 {
+			continue
+		}
+		for parts := range power(4) {
+			for wholes := range power(4) {
+				if more := withLast(w, parts, wholes); isWorld(more) {
+					all = append(all, more)
+				}
+			}
+		}
+	}
+	return all
+}
+
+// withLast puts a thing behind a world, with these things as its parts, and these as its wholes.
+func withLast(w []int, parts, wholes int) []int {
+	last := power(len(w))
+	more := append(slices.Clone(w), parts+last)
+	for _, b := range members(wholes) {
+		more[b] += last
+	}
+	return more
 }
 
 // noWorlds has lists of sets that are no worlds, by what is wrong with them.
