@@ -1,7 +1,6 @@
 package tests
 
 import (
-	"math"
 	"slices"
 	"testing"
 
@@ -196,8 +195,7 @@ func TestAtomsOfNoWorlds(t *testing.T) {
 			}
 		}
 	}
-	// each is told by its atoms but for one set that is none, or one thing too many
-	for _, w := range [][]int{flat(8), {1, 2, 0}, {1, 2, 3}, {1, 2, 4, 7}, {1, 2, 12}, {1, 2, -4}, {1, 2, math.MinInt + 4}} {
+	for _, w := range almostWorlds() {
 		if impl.AtomsOf(w) != -1 || impl.AtomsIn(w, 0) != -1 || impl.ToldByAtoms(w) || impl.MadeOfAtoms(w) {
 			t.Errorf("%v is taken for a world", w)
 		}

@@ -82,6 +82,27 @@ func (r relation) atomsIn(a int) []int {
 	return list
 }
 
+func (r relation) properParts(a int) []int {
+	var list []int
+	for b := range r {
+		if b != a && r[b][a] {
+			list = append(list, b)
+		}
+	}
+	return list
+}
+
+// rests has the parts of a that are apart from b.
+func (r relation) rests(a, b int) []int {
+	var list []int
+	for c := range r {
+		if r[c][a] && !r.overlap(c, b) {
+			list = append(list, c)
+		}
+	}
+	return list
+}
+
 // deep tries each set of things: a chain is one of which of each two things one is a part of the other one.
 func (r relation) deep() int {
 	most := 0
@@ -312,6 +333,11 @@ func noWorlds() map[string][]int {
 		"the least number and itself":        {math.MinInt + 1},
 		"a set for each is the greatest":     {math.MaxInt, math.MaxInt},
 	}
+}
+
+// almostWorlds has lists of which but one set is wrong, or one thing too many: the others are atoms alone, or a whole of atoms.
+func almostWorlds() [][]int {
+	return [][]int{flat(8), {1, 2, 0}, {1, 2, 3}, {1, 2, 4, 7}, {1, 2, 12}, {1, 2, 15}, {1, 2, -4}, {1, 2, math.MinInt + 4}, {1, 2, math.MinInt + 7}}
 }
 
 // noThings has numbers that no thing of a world of so many things has.
