@@ -103,6 +103,43 @@ func (r relation) rests(a, b int) []int {
 	return list
 }
 
+// sums has the things that overlap a thing just if something of the list does.
+func (r relation) sums(list []int) []int {
+	var sums []int
+	for a := range r {
+		same := true
+		for c := range r {
+			met := slices.ContainsFunc(list, func(b int) bool { return r.overlap(b, c) })
+			same = same && r.overlap(a, c) == met
+		}
+		if same {
+			sums = append(sums, a)
+		}
+	}
+	return sums
+}
+
+func (r relation) bounds(list []int) []int {
+	var bounds []int
+	for b := range r {
+		if !slices.ContainsFunc(list, func(a int) bool { return !r[a][b] }) {
+			bounds = append(bounds, b)
+		}
+	}
+	return bounds
+}
+
+// least asks each bound whether it is a part of all; -1 if none is.
+func (r relation) least(list []int) int {
+	bounds := r.bounds(list)
+	for _, a := range bounds {
+		if !slices.ContainsFunc(bounds, func(b int) bool { return !r[a][b] }) {
+			return a
+		}
+	}
+	return -1
+}
+
 // deep tries each set of things: a chain is one of which of each two things one is a part of the other one.
 func (r relation) deep() int {
 	most := 0
@@ -343,4 +380,10 @@ func almostWorlds() [][]int {
 // noThings has numbers that no thing of a world of so many things has.
 func noThings(n int) []int {
 	return []int{-1, -2, -7, -64, math.MinInt, n, n + 1, 7, 8, 31, 32, 63, 64, 65, math.MaxInt}
+}
+
+// noSets has numbers that tell no set of things, of one or more, of a world of so many things.
+func noSets(n int) []int {
+	all := power(n) - 1
+	return []int{0, -1, -2, -all, -all - 1, all + 1, all + 2, 2*all + 1, 2 * (all + 1), power(31), power(32) + 1, power(40) + all, power(62), math.MinInt, math.MinInt + 1, math.MinInt + all, math.MaxInt, math.MaxInt - all}
 }
