@@ -140,6 +140,36 @@ func (r relation) least(list []int) int {
 	return -1
 }
 
+func (r relation) commonParts(a, b int) []int {
+	var list []int
+	for c := range r {
+		if r[c][a] && r[c][b] {
+			list = append(list, c)
+		}
+	}
+	return list
+}
+
+func (r relation) apartFrom(a int) []int {
+	var list []int
+	for c := range r {
+		if !r.overlap(c, a) {
+			list = append(list, c)
+		}
+	}
+	return list
+}
+
+// greatest asks each thing of the list whether all of the list are parts of it; -1 if of none they are.
+func (r relation) greatest(list []int) int {
+	for _, b := range list {
+		if !slices.ContainsFunc(list, func(a int) bool { return !r[a][b] }) {
+			return b
+		}
+	}
+	return -1
+}
+
 // deep tries each set of things: a chain is one of which of each two things one is a part of the other one.
 func (r relation) deep() int {
 	most := 0
@@ -263,6 +293,26 @@ func worldOfSets(sets []int) []int {
 		}
 	}
 	return w
+}
+
+// threePoints has the worlds of all sets of three points, in each order in which the points come one after the other: other orders of the points have but other names for them.
+func threePoints() [][]int {
+	var all [][]int
+	var next func(sets []int)
+	next = func(sets []int) {
+		if len(sets) == 7 {
+			all = append(all, worldOfSets(sets))
+			return
+		}
+		for set := 1; set <= 7; set++ {
+			early := set == 2 && !slices.Contains(sets, 1) || set == 4 && !slices.Contains(sets, 2)
+			if !early && !slices.Contains(sets, set) {
+				next(append(slices.Clone(sets), set))
+			}
+		}
+	}
+	next(nil)
+	return all
 }
 
 // smallWorlds has all worlds of one to four things: 1, 3, 19 and 219.
