@@ -129,6 +129,63 @@ func (r relation) bounds(list []int) []int {
 	return bounds
 }
 
+// strong asks of each two things for a part of the one that is apart from the other one.
+func (r relation) strong() bool {
+	for a := range r {
+		for b := range r {
+			if !r[a][b] && len(r.rests(a, b)) == 0 {
+				return false
+			}
+		}
+	}
+	return true
+}
+
+func (r relation) summed() bool {
+	for set := 1; set < power(len(r)); set++ {
+		if len(r.sums(members(set))) == 0 {
+			return false
+		}
+	}
+	return true
+}
+
+func (r relation) atoms() []int {
+	var list []int
+	for a := range r {
+		if r.atom(a) {
+			list = append(list, a)
+		}
+	}
+	return list
+}
+
+// withAtoms has the things whose atoms are these.
+func (r relation) withAtoms(list []int) []int {
+	var found []int
+	for a := range r {
+		if slices.Equal(r.atomsIn(a), list) {
+			found = append(found, a)
+		}
+	}
+	return found
+}
+
+// names counts the atoms from 0 on: the set of the counted atoms of a thing, of which the empty one is left out, tells its name.
+func (r relation) names() []int {
+	var names []int
+	for a := range r {
+		var counted []int
+		for number, atom := range r.atoms() {
+			if r[atom][a] {
+				counted = append(counted, number)
+			}
+		}
+		names = append(names, setOf(counted)-1)
+	}
+	return names
+}
+
 // least asks each bound whether it is a part of all; -1 if none is.
 func (r relation) least(list []int) int {
 	bounds := r.bounds(list)
@@ -312,6 +369,27 @@ func threePoints() [][]int {
 		}
 	}
 	next(nil)
+	return all
+}
+
+// strongWorlds has all strong worlds of one to seven things, and each of them backwards; other orders of their things are left out. In each of them there are points alone, and sets of two points or more behind these.
+func strongWorlds() [][]int {
+	var all [][]int
+	var next func(sets []int, from, end int)
+	next = func(sets []int, from, end int) {
+		all = append(all, worldOfSets(sets))
+		for set := from; set < end && len(sets) < 7; set++ {
+			if len(members(set)) > 1 {
+				next(append(slices.Clone(sets), set), set+1, end)
+			}
+		}
+	}
+	for points := 1; points <= 7; points++ {
+		next(flat(points), 1, power(points))
+	}
+	for _, w := range all[:len(all):len(all)] {
+		all = append(all, backwards(w))
+	}
 	return all
 }
 
