@@ -171,9 +171,9 @@ func (r relation) withAtoms(list []int) []int {
 	return found
 }
 
-// names counts the atoms from 0 on: the set of the counted atoms of a thing, of which the empty one is left out, tells its name.
-func (r relation) names() []int {
-	var names []int
+// points has for each thing the set of its atoms, which are counted from 0 on.
+func (r relation) points() []int {
+	var sets []int
 	for a := range r {
 		var counted []int
 		for number, atom := range r.atoms() {
@@ -181,7 +181,16 @@ func (r relation) names() []int {
 				counted = append(counted, number)
 			}
 		}
-		names = append(names, setOf(counted)-1)
+		sets = append(sets, setOf(counted))
+	}
+	return sets
+}
+
+// names leaves out the empty set of counted atoms: each other one tells the name of a thing.
+func (r relation) names() []int {
+	names := r.points()
+	for a := range names {
+		names[a]--
 	}
 	return names
 }
@@ -281,6 +290,13 @@ func inSet(set, a int) bool {
 	return slices.Contains(members(set), a)
 }
 
+// both has what is in either set.
+func both(set, other int) int {
+	list := append(members(set), members(other)...)
+	slices.Sort(list)
+	return setOf(slices.Compact(list))
+}
+
 func inside(set, other int) bool {
 	for _, a := range members(set) {
 		if !inSet(other, a) {
@@ -350,6 +366,130 @@ func worldOfSets(sets []int) []int {
 		}
 	}
 	return w
+}
+
+// isFamily asks each sentence of the definition of its own.
+func isFamily(list []int) bool {
+	if len(list) < 1 || len(list) > 7 {
+		return false
+	}
+	for i, set := range list {
+		if set <= 0 || set > 15 || slices.Contains(list[:i], set) {
+			return false
+		}
+	}
+	return true
+}
+
+// togetherOf has what is in any set of a list.
+func togetherOf(list []int) int {
+	all := 0
+	for _, set := range list {
+		all = both(all, set)
+	}
+	return all
+}
+
+// pointsOf has the sets of one point, of each point of a set of a list, in ascending order.
+func pointsOf(list []int) []int {
+	var points []int
+	for _, point := range members(togetherOf(list)) {
+		points = append(points, power(point))
+	}
+	return points
+}
+
+// putTogether has what is in any of some sets of a list, of one or more, for each choice of these, in ascending order.
+func putTogether(list []int) []int {
+	var sums []int
+	for chosen := 1; chosen < power(len(list)); chosen++ {
+		var some []int
+		for _, i := range members(chosen) {
+			some = append(some, list[i])
+		}
+		sums = append(sums, togetherOf(some))
+	}
+	slices.Sort(sums)
+	return slices.Compact(sums)
+}
+
+// withBehind has a list and behind it the others that are not in it; nil if these are more than seven in all.
+func withBehind(list, others []int) []int {
+	with := slices.Clone(list)
+	for _, set := range others {
+		if !slices.Contains(list, set) {
+			with = append(with, set)
+		}
+	}
+	if len(with) > 7 {
+		return nil
+	}
+	return with
+}
+
+// families has all families of one to seven sets of four points, in ascending order: 16383.
+func families() [][]int {
+	var all [][]int
+	for chosen := 1; chosen < power(15); chosen++ {
+		if sets := members(chosen * 2); len(sets) <= 7 {
+			all = append(all, sets)
+		}
+	}
+	return all
+}
+
+// orders has a list as it is, backwards, and with every other one of it ahead of the rest.
+func orders(list []int) [][]int {
+	back := slices.Clone(list)
+	slices.Reverse(back)
+	var first, rest []int
+	for i, set := range list {
+		if i%2 == 1 {
+			first = append(first, set)
+		} else {
+			rest = append(rest, set)
+		}
+	}
+	return [][]int{list, back, append(first, rest...)}
+}
+
+// noFamilies has lists of sets that are no families, by what is wrong with them.
+func noFamilies() map[string][]int {
+	return map[string][]int{
+		"nothing":                              nil,
+		"no sets":                              {},
+		"eight sets":                           {1, 2, 3, 4, 5, 6, 7, 8},
+		"eight sets backwards":                 {8, 7, 6, 5, 4, 3, 2, 1},
+		"all sets of four points":              members(power(16) - 2),
+		"eight times the same":                 {1, 1, 1, 1, 1, 1, 1, 1},
+		"seven sets and one of them":           {1, 2, 3, 4, 5, 6, 7, 7},
+		"many sets":                            slices.Repeat([]int{1, 2, 4}, 20),
+		"a set twice":                          {1, 1},
+		"all points twice":                     {15, 15},
+		"a set twice with another one between": {3, 5, 3},
+		"the last of seven is the first":       {1, 2, 3, 4, 5, 6, 1},
+		"the last of seven is the one before":  {1, 2, 3, 4, 5, 6, 6},
+		"the empty set":                        {0},
+		"the empty set first":                  {0, 1, 2},
+		"the empty set last":                   {1, 2, 0},
+		"the empty set twice":                  {0, 0},
+		"the fifth point":                      {16},
+		"the fifth point and others":           {17},
+		"five points":                          {1, 2, 31},
+		"the fifth point first":                {16, 1, 2},
+		"a point far past the end":             {1, 2 + power(40)},
+		"the bit of half a word":               {power(31)},
+		"a word and a point":                   {power(32) + 1},
+		"all bits":                             {-1},
+		"a negative set":                       {1, -2},
+		"a negative set first":                 {-4, 3},
+		"all negative":                         {-1, -2, -3},
+		"the least number":                     {math.MinInt},
+		"the least number and a point":         {2, math.MinInt + 1},
+		"the least number and all points":      {math.MinInt + 15},
+		"the greatest number":                  {math.MaxInt},
+		"the greatest number but a point":      {1, math.MaxInt - 1},
+	}
 }
 
 // threePoints has the worlds of all sets of three points, in each order in which the points come one after the other: other orders of the points have but other names for them.
