@@ -91,6 +91,63 @@ func (near nearness) grown(a []int) []int {
 	return list
 }
 
+// reached has the places of a list to which a way leads from one of them, over neighbours in the list.
+func (near nearness) reached(a []int, from int) []int {
+	found := []int{from}
+	for i := 0; i < len(found); i++ {
+		for _, q := range a {
+			if near[found[i]][q] && !slices.Contains(found, q) {
+				found = append(found, q)
+			}
+		}
+	}
+	slices.Sort(found)
+	return found
+}
+
+// together asks for ways, and not for cuts: what cannot be reached is the other part of a cut.
+func (near nearness) together(a []int) bool {
+	return len(near.reached(a, a[0])) == len(a)
+}
+
+// pieces has what is reached from each place that is the least one of it.
+func (near nearness) pieces(a []int) []int {
+	var sets []int
+	for _, p := range a {
+		if piece := near.reached(a, p); piece[0] == p {
+			sets = append(sets, setOf(piece))
+		}
+	}
+	return sets
+}
+
+func (near nearness) holes(a []int) []int {
+	var others []int
+	for p := range near {
+		if !slices.Contains(a, p) {
+			others = append(others, p)
+		}
+	}
+	var sets []int
+	for _, piece := range near.pieces(others) {
+		if !inSet(piece, 0) {
+			sets = append(sets, piece)
+		}
+	}
+	return sets
+}
+
+// cutAt expects two places or more.
+func (near nearness) cutAt(a []int) []int {
+	var list []int
+	for i, p := range a {
+		if rest := slices.Delete(slices.Clone(a), i, i+1); !near.together(rest) {
+			list = append(list, p)
+		}
+	}
+	return list
+}
+
 // groundWith has so many places, of which each two are neighbours for which it holds.
 func groundWith(n int, near func(p, q int) bool) []int {
 	g := make([]int, n)

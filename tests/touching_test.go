@@ -654,6 +654,7 @@ func noTouch(t *testing.T, name string, g []int, a, b int, others ...int) {
 		if got := impl.GrownOf(g, set); got != -1 {
 			t.Errorf("%s: GrownOf(%v, %d) is %d", name, g, set, got)
 		}
+		noPieces(t, name, g, set)
 	}
 }
 
@@ -754,7 +755,9 @@ func TestTouchingReadsTheGroundOfNow(t *testing.T) {
 	}
 }
 
-func TestTouchingWritesNothing(t *testing.T) {
+// writesNothing asks of each ground, and of what is none, with other numbers in the memory behind it, whether it is the same as without these.
+func writesNothing(t *testing.T, same func(short, g []int, set int) bool) {
+	t.Helper()
 	given := grounds()
 	for _, g := range noGrounds() {
 		given = append(given, g)
@@ -762,10 +765,8 @@ func TestTouchingWritesNothing(t *testing.T) {
 	for _, g := range given {
 		roomy := append(slices.Clone(g), 91, 92, 93, 94, 95, 96, 97)
 		before := slices.Clone(roomy)
-		short := roomy[:len(g)]
-		for _, set := range []int{1, 2, 3, 5, 64, 127, 128, -1} {
-			if impl.GroundOk(short) != impl.GroundOk(g) || impl.ThingOk(short, set) != impl.ThingOk(g, set) || touchTold(short, set, 1) != touchTold(g, set, 1) ||
-				impl.BorderOf(short, set) != impl.BorderOf(g, set) || impl.GrownOf(short, set) != impl.GrownOf(g, set) {
+		for _, set := range []int{1, 2, 3, 5, 7, 64, 127, 128, -1} {
+			if !same(roomy[:len(g)], g, set) {
 				t.Errorf("%v: what follows it is read", g)
 			}
 		}
@@ -773,4 +774,11 @@ func TestTouchingWritesNothing(t *testing.T) {
 			t.Fatalf("%v is written to: %v", before, roomy)
 		}
 	}
+}
+
+func TestTouchingWritesNothing(t *testing.T) {
+	writesNothing(t, func(short, g []int, set int) bool {
+		return impl.GroundOk(short) == impl.GroundOk(g) && impl.ThingOk(short, set) == impl.ThingOk(g, set) && touchTold(short, set, 1) == touchTold(g, set, 1) &&
+			impl.BorderOf(short, set) == impl.BorderOf(g, set) && impl.GrownOf(short, set) == impl.GrownOf(g, set)
+	})
 }
