@@ -533,17 +533,20 @@ func strongWorlds() [][]int {
 	return all
 }
 
+// worldsAsDefined tries all lists of sets of so many things. They come in ascending order, the last set changing first.
+func worldsAsDefined(n int) [][]int {
+	var all [][]int
+	lists(n, 0, power(n)-1, func(w []int) {
+		if isWorld(w) {
+			all = append(all, w)
+		}
+	})
+	return all
+}
+
 // smallWorlds has all worlds of one to four things: 1, 3, 19 and 219.
 func smallWorlds() [][]int {
-	var all [][]int
-	for n := 1; n <= 4; n++ {
-		lists(n, 0, power(n)-1, func(w []int) {
-			if isWorld(w) {
-				all = append(all, w)
-			}
-		})
-	}
-	return all
+	return slices.Concat(worldsAsDefined(1), worldsAsDefined(2), worldsAsDefined(3), worldsAsDefined(4))
 }
 
 // largeWorlds has worlds of MaxThings things: flat, in a line, with a thing that is part of all, with one that has all, all sets of three points, and seven sets of points each; and each of them backwards.
