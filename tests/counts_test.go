@@ -283,8 +283,8 @@ func TestShapesOfNone(t *testing.T) {
 		}
 	}
 	lists(4, 0, 15, func(w []int) {
-		if !isWorld(w) && len(impl.ShapeOf(w)) != 0 {
-			t.Errorf("ShapeOf(%v) is %v", w, impl.ShapeOf(w))
+		if !isWorld(w) && (len(impl.ShapeOf(w)) != 0 || kindsTold(w) != kindTruth{}) {
+			t.Errorf("ShapeOf(%v) is %v, of the kinds %v", w, impl.ShapeOf(w), kindsTold(w))
 		}
 	})
 }
