@@ -176,14 +176,19 @@ func smallStories() []story {
 	return all
 }
 
-// longStories has stories of up to MaxStory changes of all kinds of ships. They follow a rule that takes each place, and two that are not there, and few planks or many of them: where they are few, planks are put back.
-func longStories() []story {
-	var all []story
+// byRule makes a function that has one number after the other below a bound, always the same ones, but in no plain order.
+func byRule() func(below int) int {
 	seed := 1
-	next := func(below int) int {
+	return func(below int) int {
 		seed = seed * 75 % 65537
 		return seed % below
 	}
+}
+
+// longStories has stories of up to MaxStory changes of all kinds of ships. They follow a rule that takes each place, and two that are not there, and few planks or many of them: where they are few, planks are put back.
+func longStories() []story {
+	var all []story
+	next := byRule()
 	for _, planks := range []int{3, 6, 9, 15, 40, 103} {
 		for _, ship := range slices.Repeat(ships(), 4) {
 			list := make([]impl.Change, next(21))
